@@ -7,16 +7,11 @@ import (
 
 	"headway/api"
 	"headway/curve"
+	"headway/samples"
 )
 
 // ramp is 0, 1, 2 and so on, n values.
-func ramp(n int) []int {
-	f := make([]int, n)
-	for t := range f {
-		f[t] = t
-	}
-	return f
-}
+func ramp(n int) []int { return samples.Slope(n, 0, 1) }
 
 // with is a ramp of n values, the one at time t replaced by v.
 func with(n, t, v int) []int {
@@ -24,17 +19,6 @@ func with(n, t, v int) []int {
 	f[t] = v
 	return f
 }
-
-// strange are arguments of all kinds, right and wrong, that a caller might hand in.
-func strange() [][]int {
-	return [][]int{
-		nil, {}, {0}, {api.MaxVal}, {api.MaxVal + 1}, {-1}, {math.MinInt}, {math.MaxInt},
-		{0, 3, 3}, {0, 3, 2}, {5, 5, 5}, {0, math.MaxInt}, {0, math.MinInt}, {math.MaxInt, math.MinInt},
-		ramp(60), ramp(61), ramp(62), make([]int, 0, 9), make([]int, 5000),
-	}
-}
-
-var numbers = []int{math.MinInt, -1, 0, 1, 2, 3, 59, 60, 61, 62, api.MaxVal, api.MaxVal + 1, math.MaxInt}
 
 func TestCheck(t *testing.T) { // P3
 	for _, x := range []struct {
@@ -161,14 +145,14 @@ func TestCutErrors(t *testing.T) { // P5
 }
 
 func TestNothingPanics(t *testing.T) { // P1
-	for _, f := range strange() {
+	for _, f := range samples.Strange() {
 		e := curve.Check(f)
-		for _, h := range numbers {
+		for _, h := range samples.Numbers() {
 			if out, e2 := curve.Cut(f, h); (e2 == api.OK) != (e == api.OK && h >= 0 && h < len(f)) || len(out) > 0 && e2 != api.OK {
 				t.Errorf("cut of %v at %d: %v %d", f, h, out, e2)
 			}
 		}
-		for _, g := range strange() {
+		for _, g := range samples.Strange() {
 			if is, e2 := curve.Le(f, g); is && e2 != api.OK || e != api.OK && e2 != e {
 				t.Errorf("%v and %v: %t %d", f, g, is, e2)
 			}

@@ -8,6 +8,7 @@ import (
 	"headway/api"
 	"headway/curve"
 	"headway/point"
+	"headway/samples"
 )
 
 type ofTwo struct {
@@ -50,52 +51,6 @@ func ofOnes() []ofOne {
 	}
 }
 
-// small are all the curves of 1 to 4 values from 0 to 3.
-func small() [][]int {
-	var out [][]int
-	last := [][]int{nil}
-	for range 4 {
-		var next [][]int
-		for _, f := range last {
-			low := 0
-			if len(f) > 0 {
-				low = f[len(f)-1]
-			}
-			for v := low; v <= 3; v++ {
-				next = append(next, append(slices.Clone(f), v))
-			}
-		}
-		out = append(out, next...)
-		last = next
-	}
-	return out
-}
-
-// slope is start, start+step and so on, n values.
-func slope(n, start, step int) []int {
-	f := make([]int, n)
-	for t := range f {
-		f[t] = start + t*step
-	}
-	return f
-}
-
-func strange() [][]int {
-	return [][]int{
-		nil, {}, {0}, {api.MaxVal}, {api.MaxVal + 1}, {-1}, {math.MinInt}, {math.MaxInt},
-		{0, 3, 3}, {0, 3, 2}, {5, 5, 5}, {0, math.MaxInt}, {0, math.MinInt}, {math.MaxInt, math.MinInt},
-		slope(61, 0, 1), slope(61, 0, 16000), slope(61, api.MaxVal, 0), slope(62, 0, 1), make([]int, 0, 9), make([]int, 5000),
-	}
-}
-
-func values(n int, at func(t int) int) []int {
-	out := make([]int, n)
-	for t := range out {
-		out[t] = at(t)
-	}
-	return out
-}
-
 func TestExamples(t *testing.T) { // P6, P7, P8
 	f, g := []int{0, 5, 6, 9}, []int{1, 2, 7, 8}
 	one := func(a []int, _ api.Errno) []int { return a }
@@ -127,8 +82,8 @@ func TestExamples(t *testing.T) { // P6, P7, P8
 
 func TestTwoSmall(t *testing.T) { // P6, P7
 	for _, op := range ofTwos() {
-		for _, f := range small() {
-			for _, g := range small() {
+		for _, f := range samples.Small() {
+			for _, g := range samples.Small() {
 				got, e := op.call(f, g)
 				if len(f) != len(g) {
 					if e != api.ErrLen || len(got) != 0 {
@@ -136,7 +91,7 @@ func TestTwoSmall(t *testing.T) { // P6, P7
 					}
 					continue
 				}
-				want := values(len(f), func(t int) int { return op.want(f, g, t) })
+				want := samples.Values(len(f), func(t int) int { return op.want(f, g, t) })
 				if e != api.OK || !slices.Equal(got, want) || curve.Check(got) != api.OK {
 					t.Fatalf("%s of %v, %v: %v %d, not %v", op.name, f, g, got, e, want)
 				}
@@ -146,11 +101,11 @@ func TestTwoSmall(t *testing.T) { // P6, P7
 }
 
 func TestTwoLong(t *testing.T) { // P6, P7
-	long := [][]int{slope(61, 0, 0), slope(61, 0, 8000), slope(61, 9, 5), slope(61, 300000, 1), slope(61, 500000, 0)}
+	long := samples.Long()
 	for _, op := range ofTwos() {
 		for _, f := range long {
 			for _, g := range long {
-				want := values(61, func(t int) int { return op.want(f, g, t) })
+				want := samples.Values(61, func(t int) int { return op.want(f, g, t) })
 				if got, e := op.call(f, g); e != api.OK || !slices.Equal(got, want) {
 					t.Fatalf("%s of %v, %v: %v %d", op.name, f, g, got, e)
 				}
@@ -161,24 +116,9 @@ func TestTwoLong(t *testing.T) { // P6, P7
 
 func TestTwoErrors(t *testing.T) { // P6, P7
 	for _, op := range ofTwos() {
-		for _, x := range []struct {
-			name string
-			f, g []int
-			want api.Errno
-		}{
-			{"no first", nil, []int{0}, api.ErrArg},
-			{"no second", []int{0}, nil, api.ErrArg},
-			{"the first falls", []int{1, 0}, []int{0, 0}, api.ErrForm},
-			{"the second falls", []int{0, 0}, []int{1, 0}, api.ErrForm},
-			{"the first's error ahead of the second's", []int{1, 0}, []int{-1}, api.ErrForm},
-			{"the second's error ahead of the lengths", []int{0}, []int{1, 0}, api.ErrForm},
-			{"the first is too long", slope(62, 0, 1), []int{0}, api.ErrLarge},
-			{"the second is too long", []int{0}, slope(62, 0, 1), api.ErrLarge},
-			{"a value of the first is too great", []int{api.MaxVal + 1}, []int{0}, api.ErrLarge},
-			{"lengths ahead of the size of the result", []int{api.MaxVal}, []int{api.MaxVal, api.MaxVal}, api.ErrLen},
-		} {
-			if got, e := op.call(x.f, x.g); e != x.want || len(got) != 0 {
-				t.Errorf("%s, %s: %v %d, not %d", op.name, x.name, got, e, x.want)
+		for _, x := range samples.WrongPairs() {
+			if got, e := op.call(x.F, x.G); e != x.Want || len(got) != 0 {
+				t.Errorf("%s, %s: %v %d, not %d", op.name, x.Name, got, e, x.Want)
 			}
 		}
 	}
@@ -209,17 +149,17 @@ func TestSumLarge(t *testing.T) { // P6
 
 func TestOneSmall(t *testing.T) { // P8
 	for _, op := range ofOnes() {
-		for _, f := range small() {
+		for _, f := range samples.Small() {
 			for n := range 8 {
-				want := values(len(f), func(t int) int { return op.want(f, n, t) })
+				want := samples.Values(len(f), func(t int) int { return op.want(f, n, t) })
 				if got, e := op.call(f, n); e != api.OK || !slices.Equal(got, want) {
 					t.Fatalf("%s of %v by %d: %v %d, not %v", op.name, f, n, got, e, want)
 				}
 			}
 		}
-		f := slope(61, 4, 9)
+		f := samples.Slope(61, 4, 9)
 		for _, n := range []int{0, 1, 30, 59, 60, 61, 62, 1000} {
-			want := values(61, func(t int) int { return op.want(f, n, t) })
+			want := samples.Values(61, func(t int) int { return op.want(f, n, t) })
 			if got, e := op.call(f, n); e != api.OK || !slices.Equal(got, want) {
 				t.Fatalf("%s by %d: %v %d", op.name, n, got, e)
 			}
@@ -237,10 +177,10 @@ func TestOneErrors(t *testing.T) { // P8
 		}{
 			{"no curve", nil, 0, api.ErrArg},
 			{"a fall", []int{1, 0}, 0, api.ErrForm},
-			{"too long", slope(62, 0, 1), 0, api.ErrLarge},
+			{"too long", samples.Slope(62, 0, 1), 0, api.ErrLarge},
 			{"too great", []int{0, api.MaxVal + 1}, 0, api.ErrLarge},
 			{"the curve's form ahead of the number", []int{1, 0}, -1, api.ErrForm},
-			{"the curve's size ahead of the number", slope(62, 0, 1), -1, api.ErrLarge},
+			{"the curve's size ahead of the number", samples.Slope(62, 0, 1), -1, api.ErrLarge},
 			{"below 0", []int{0, 1}, -1, api.ErrArg},
 			{"far below 0", []int{0, 1}, math.MinInt, api.ErrArg},
 		} {
@@ -283,11 +223,10 @@ func TestUpLarge(t *testing.T) { // P8, and P6 on results that are too great
 }
 
 func TestNothingPanics(t *testing.T) { // P1
-	numbers := []int{math.MinInt, -1, 0, 1, 60, 61, 62, api.MaxVal, api.MaxVal + 1, math.MaxInt}
-	for _, f := range strange() {
+	for _, f := range samples.Strange() {
 		first := curve.Check(f)
 		for _, op := range ofTwos() {
-			for _, g := range strange() {
+			for _, g := range samples.Strange() {
 				got, e := op.call(f, g)
 				if first != api.OK && e != first || (e == api.OK) != (curve.Check(got) == api.OK) || e != api.OK && len(got) != 0 {
 					t.Errorf("%s of %v, %v: %v %d", op.name, f, g, got, e)
@@ -295,7 +234,7 @@ func TestNothingPanics(t *testing.T) { // P1
 			}
 		}
 		for _, op := range ofOnes() {
-			for _, n := range numbers {
+			for _, n := range samples.Numbers() {
 				got, e := op.call(f, n)
 				if first != api.OK && e != first || (e == api.OK) != (curve.Check(got) == api.OK) || e != api.OK && len(got) != 0 {
 					t.Errorf("%s of %v by %d: %v %d", op.name, f, n, got, e)
@@ -305,27 +244,10 @@ func TestNothingPanics(t *testing.T) { // P1
 	}
 }
 
-// stays calls twice, overwrites all of one result and looks whether anything else has changed by it.
 func stays(t *testing.T, name string, rooms [][]int, call func() ([]int, api.Errno)) {
 	t.Helper()
-	var before [][]int
-	for _, r := range rooms {
-		before = append(before, slices.Clone(r))
-	}
-	got, _ := call()
-	other, _ := call()
-	want := slices.Clone(other)
-	got = got[:cap(got)]
-	for i := range got {
-		got[i] = -5
-	}
-	for i, r := range rooms {
-		if !slices.Equal(r, before[i]) {
-			t.Errorf("%s: an argument has changed: %v", name, r)
-		}
-	}
-	if len(want) == 0 || !slices.Equal(other, want) {
-		t.Errorf("%s: results share memory: %v", name, other)
+	if fault := samples.Shares(rooms, call); fault != "" {
+		t.Errorf("%s: %s: %v", name, fault, rooms)
 	}
 }
 

@@ -1,0 +1,134 @@
+// Package samples: arguments, right and wrong, that the tests of several packages ask with. No package of the program needs it.
+package samples
+
+import (
+	"math"
+	"slices"
+
+	"headway/api"
+)
+
+// Values returns n values, each made out of its time.
+func Values(n int, at func(t int) int) []int {
+	out := make([]int, n)
+	for t := range out {
+		out[t] = at(t)
+	}
+	return out
+}
+
+// Slope returns start, start+step and so on, n values.
+func Slope(n, start, step int) []int {
+	return Values(n, func(t int) int { return start + t*step })
+}
+
+// Small returns all the curves of 1 to 4 values from 0 to 3.
+func Small() [][]int {
+	var out [][]int
+	last := [][]int{nil}
+	for range 4 {
+		var next [][]int
+		for _, f := range last {
+			next = append(next, longer(f)...)
+		}
+		out = append(out, next...)
+		last = next
+	}
+	return out
+}
+
+// longer returns the curves that have one value more than f, of at most 3.
+func longer(f []int) [][]int {
+	low := 0
+	if len(f) > 0 {
+		low = f[len(f)-1]
+	}
+	var out [][]int
+	for v := low; v <= 3; v++ {
+		out = append(out, append(slices.Clone(f), v))
+	}
+	return out
+}
+
+// Long returns curves of 61 values, of several forms; no two of them add up to more than a curve may have.
+func Long() [][]int {
+	return [][]int{
+		Slope(61, 0, 0), Slope(61, 0, 8000), Slope(61, 9, 5), Slope(61, 300000, 1), Slope(61, 500000, 0),
+		Values(61, func(t int) int { return t * t }),
+		Values(61, func(t int) int { return t / 7 * 100 }),
+		Values(61, func(t int) int { return 3600 - (60-t)*(60-t) }),
+		Values(61, func(t int) int { return max(0, t-20) * 11 }),
+		Values(61, func(t int) int { return t*12 + t*t%11 }),
+	}
+}
+
+// Strange returns lists of all kinds, curves or not.
+func Strange() [][]int {
+	return [][]int{
+		nil, {}, {0}, {api.MaxVal}, {api.MaxVal + 1}, {-1}, {math.MinInt}, {math.MaxInt},
+		{0, 3, 3}, {0, 3, 2}, {5, 5, 5}, {0, math.MaxInt}, {0, math.MinInt}, {math.MaxInt, math.MinInt},
+		Slope(60, 0, 1), Slope(61, 0, 1), Slope(61, 0, 16000), Slope(61, api.MaxVal, 0), Slope(62, 0, 1),
+		make([]int, 0, 9), make([]int, 5000),
+	}
+}
+
+// Numbers returns numbers of all kinds.
+func Numbers() []int {
+	return []int{math.MinInt, -1, 0, 1, 2, 3, 59, 60, 61, 62, api.MaxVal, api.MaxVal + 1, math.MaxInt}
+}
+
+// WrongPair: two lists that are not two curves of one length, and the error that they deserve.
+type WrongPair struct {
+	Name string
+	F, G []int
+	Want api.Errno
+}
+
+// WrongPairs returns the errors that any function of two curves has, and their order.
+func WrongPairs() []WrongPair {
+	return []WrongPair{
+		{"no first", nil, []int{0}, api.ErrArg},
+		{"no second", []int{0}, nil, api.ErrArg},
+		{"neither", nil, nil, api.ErrArg},
+		{"the first falls", []int{1, 0}, []int{0, 0}, api.ErrForm},
+		{"the second falls", []int{0, 0}, []int{1, 0}, api.ErrForm},
+		{"the first's error ahead of the second's", []int{1, 0}, []int{-1}, api.ErrForm},
+		{"the first's error ahead of the second's, turned", []int{-1}, []int{1, 0}, api.ErrArg},
+		{"the first's error ahead of the lengths", []int{-1}, []int{0, 1}, api.ErrArg},
+		{"the second's error ahead of the lengths", []int{0}, []int{1, 0}, api.ErrForm},
+		{"the first is too long", Slope(62, 0, 1), []int{0}, api.ErrLarge},
+		{"the second is too long", []int{0}, Slope(62, 0, 1), api.ErrLarge},
+		{"a value of the first is too great", []int{api.MaxVal + 1}, []int{0}, api.ErrLarge},
+		{"a value of the second is too great", []int{0}, []int{api.MaxVal + 1}, api.ErrLarge},
+		{"the first is shorter", []int{0}, []int{0, 1}, api.ErrLen},
+		{"the second is shorter", []int{0, 1}, []int{0}, api.ErrLen},
+		{"lengths ahead of the size of the result", []int{api.MaxVal}, []int{api.MaxVal, api.MaxVal}, api.ErrLen},
+	}
+}
+
+// Shares calls twice, overwrites all of one result, and tells what has changed by it: an argument (rooms, each with its spare capacity), the other result, or nothing ("").
+func Shares(rooms [][]int, call func() ([]int, api.Errno)) string {
+	var before [][]int
+	for _, r := range rooms {
+		before = append(before, slices.Clone(r))
+	}
+	got, _ := call()
+	other, _ := call()
+	want := slices.Clone(other)
+	got = got[:cap(got)]
+	for i := range got {
+		got[i] = -5
+	}
+	for i, r := range rooms {
+		if !slices.Equal(r, before[i]) {
+			return "an argument has changed"
+		}
+	}
+	if len(want) == 0 {
+		return "there is no result"
+	}
+	if !slices.Equal(other, want) {
+		return "results share memory"
+	}
+	return ""
+}
