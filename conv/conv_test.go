@@ -57,17 +57,10 @@ func TestOfExamples(t *testing.T) { // P9
 }
 
 func TestOfAll(t *testing.T) { // P9
-	for _, curves := range [][][]int{samples.Small(), samples.Long()} {
-		for _, f := range curves {
-			for _, g := range curves {
-				if len(f) != len(g) {
-					continue
-				}
-				want := wanted(f, g)
-				if got, e := conv.Of(f, g); e != api.OK || !slices.Equal(got, want) || curve.Check(got) != api.OK {
-					t.Fatalf("%v, %v: %v %d, not %v", f, g, got, e, want)
-				}
-			}
+	for f, g := range samples.Pairs() {
+		want := wanted(f, g)
+		if got, e := conv.Of(f, g); e != api.OK || !slices.Equal(got, want) || curve.Check(got) != api.OK {
+			t.Fatalf("%v, %v: %v %d, not %v", f, g, got, e, want)
 		}
 	}
 }
@@ -211,16 +204,15 @@ func TestTimesErrors(t *testing.T) { // P10
 
 func TestNothingPanics(t *testing.T) { // P1
 	for _, f := range samples.Strange() {
-		first := curve.Check(f)
 		for _, g := range samples.Strange() {
 			got, e := conv.Of(f, g)
-			if first != api.OK && e != first || (e == api.OK) != (curve.Check(got) == api.OK) || e != api.OK && len(got) != 0 {
+			if !samples.Sound(f, got, e) {
 				t.Errorf("%v, %v: %v %d", f, g, got, e)
 			}
 		}
 		for _, n := range samples.Numbers() {
 			got, e := conv.Times(f, n)
-			if first != api.OK && e != first || (e == api.OK) != (curve.Check(got) == api.OK) || e != api.OK && len(got) != 0 {
+			if !samples.Sound(f, got, e) {
 				t.Errorf("%d of %v: %v %d", n, f, got, e)
 			}
 		}
@@ -228,13 +220,10 @@ func TestNothingPanics(t *testing.T) { // P1
 }
 
 func TestArgumentsStay(t *testing.T) { // P2
-	f, g := []int{0, 5, 6, 9, 77, 78}, []int{0, 2, 7, 8, 87, 88, 89}
-	zero := []int{0, 0, 0, 0, 97, 98}
-	for _, x := range [][2][]int{{f, g}, {g, f}, {f, f}, {f, zero}, {zero, f}, {zero, zero}} {
-		if fault := samples.Shares(x[:], func() ([]int, api.Errno) { return conv.Of(x[0][:4], x[1][:4]) }); fault != "" {
-			t.Errorf("%v: %s", x, fault)
-		}
+	if fault := samples.PairShares(conv.Of); fault != "" {
+		t.Error(fault)
 	}
+	f, zero := []int{0, 5, 6, 9, 77, 78}, []int{0, 0, 0, 0, 97, 98}
 	for _, n := range []int{1, 2, 3, 60} {
 		for _, f := range [][]int{f, zero} {
 			if fault := samples.Shares([][]int{f}, func() ([]int, api.Errno) { return conv.Times(f[:4], n) }); fault != "" {

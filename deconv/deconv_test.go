@@ -49,17 +49,10 @@ func TestExamples(t *testing.T) { // P11
 }
 
 func TestAll(t *testing.T) { // P11
-	for _, curves := range [][][]int{samples.Small(), samples.Long()} {
-		for _, f := range curves {
-			for _, g := range curves {
-				if len(f) != len(g) {
-					continue
-				}
-				want := wanted(f, g)
-				if got, e := deconv.Of(f, g); e != api.OK || !slices.Equal(got, want) || curve.Check(got) != api.OK {
-					t.Fatalf("%v, %v: %v %d, not %v", f, g, got, e, want)
-				}
-			}
+	for f, g := range samples.Pairs() {
+		want := wanted(f, g)
+		if got, e := deconv.Of(f, g); e != api.OK || !slices.Equal(got, want) || curve.Check(got) != api.OK {
+			t.Fatalf("%v, %v: %v %d, not %v", f, g, got, e, want)
 		}
 	}
 }
@@ -74,10 +67,9 @@ func TestErrors(t *testing.T) { // P11
 
 func TestNothingPanics(t *testing.T) { // P1
 	for _, f := range samples.Strange() {
-		first := curve.Check(f)
 		for _, g := range samples.Strange() {
 			got, e := deconv.Of(f, g)
-			if first != api.OK && e != first || (e == api.OK) != (curve.Check(got) == api.OK) || e != api.OK && len(got) != 0 {
+			if !samples.Sound(f, got, e) {
 				t.Errorf("%v, %v: %v %d", f, g, got, e)
 			}
 		}
@@ -85,11 +77,7 @@ func TestNothingPanics(t *testing.T) { // P1
 }
 
 func TestArgumentsStay(t *testing.T) { // P2
-	f, g := []int{0, 5, 6, 9, 77, 78}, []int{0, 2, 7, 8, 87, 88, 89}
-	zero := []int{0, 0, 0, 0, 97, 98}
-	for _, x := range [][2][]int{{f, g}, {g, f}, {f, f}, {f, zero}, {zero, f}, {zero, zero}} {
-		if fault := samples.Shares(x[:], func() ([]int, api.Errno) { return deconv.Of(x[0][:4], x[1][:4]) }); fault != "" {
-			t.Errorf("%v: %s", x, fault)
-		}
+	if fault := samples.PairShares(deconv.Of); fault != "" {
+		t.Error(fault)
 	}
 }

@@ -80,35 +80,12 @@ func TestExamples(t *testing.T) { // P6, P7, P8
 	}
 }
 
-func TestTwoSmall(t *testing.T) { // P6, P7
+func TestTwoAll(t *testing.T) { // P6, P7
 	for _, op := range ofTwos() {
-		for _, f := range samples.Small() {
-			for _, g := range samples.Small() {
-				got, e := op.call(f, g)
-				if len(f) != len(g) {
-					if e != api.ErrLen || len(got) != 0 {
-						t.Fatalf("%s of %v, %v: %v %d", op.name, f, g, got, e)
-					}
-					continue
-				}
-				want := samples.Values(len(f), func(t int) int { return op.want(f, g, t) })
-				if e != api.OK || !slices.Equal(got, want) || curve.Check(got) != api.OK {
-					t.Fatalf("%s of %v, %v: %v %d, not %v", op.name, f, g, got, e, want)
-				}
-			}
-		}
-	}
-}
-
-func TestTwoLong(t *testing.T) { // P6, P7
-	long := samples.Long()
-	for _, op := range ofTwos() {
-		for _, f := range long {
-			for _, g := range long {
-				want := samples.Values(61, func(t int) int { return op.want(f, g, t) })
-				if got, e := op.call(f, g); e != api.OK || !slices.Equal(got, want) {
-					t.Fatalf("%s of %v, %v: %v %d", op.name, f, g, got, e)
-				}
+		for f, g := range samples.Pairs() {
+			want := samples.Values(len(f), func(t int) int { return op.want(f, g, t) })
+			if got, e := op.call(f, g); e != api.OK || !slices.Equal(got, want) || curve.Check(got) != api.OK {
+				t.Fatalf("%s of %v, %v: %v %d, not %v", op.name, f, g, got, e, want)
 			}
 		}
 	}
@@ -224,11 +201,10 @@ func TestUpLarge(t *testing.T) { // P8, and P6 on results that are too great
 
 func TestNothingPanics(t *testing.T) { // P1
 	for _, f := range samples.Strange() {
-		first := curve.Check(f)
 		for _, op := range ofTwos() {
 			for _, g := range samples.Strange() {
 				got, e := op.call(f, g)
-				if first != api.OK && e != first || (e == api.OK) != (curve.Check(got) == api.OK) || e != api.OK && len(got) != 0 {
+				if !samples.Sound(f, got, e) {
 					t.Errorf("%s of %v, %v: %v %d", op.name, f, g, got, e)
 				}
 			}
@@ -236,7 +212,7 @@ func TestNothingPanics(t *testing.T) { // P1
 		for _, op := range ofOnes() {
 			for _, n := range samples.Numbers() {
 				got, e := op.call(f, n)
-				if first != api.OK && e != first || (e == api.OK) != (curve.Check(got) == api.OK) || e != api.OK && len(got) != 0 {
+				if !samples.Sound(f, got, e) {
 					t.Errorf("%s of %v by %d: %v %d", op.name, f, n, got, e)
 				}
 			}
@@ -244,25 +220,18 @@ func TestNothingPanics(t *testing.T) { // P1
 	}
 }
 
-func stays(t *testing.T, name string, rooms [][]int, call func() ([]int, api.Errno)) {
-	t.Helper()
-	if fault := samples.Shares(rooms, call); fault != "" {
-		t.Errorf("%s: %s: %v", name, fault, rooms)
-	}
-}
-
 func TestArgumentsStay(t *testing.T) { // P2
-	f, g := []int{0, 5, 6, 9, 77, 78}, []int{1, 2, 7, 8, 87, 88, 89}
-	high, low := []int{9, 9, 9, 99, 77, 78}, []int{0, 0, 0, 0, 87, 88}
 	for _, op := range ofTwos() {
-		stays(t, op.name, [][]int{f, g}, func() ([]int, api.Errno) { return op.call(f[:4], g[:4]) })
-		stays(t, op.name, [][]int{high, low}, func() ([]int, api.Errno) { return op.call(high[:4], low[:4]) })
-		stays(t, op.name, [][]int{high, low}, func() ([]int, api.Errno) { return op.call(low[:4], high[:4]) })
-		stays(t, op.name, [][]int{f}, func() ([]int, api.Errno) { return op.call(f[:4], f[:4]) })
+		if fault := samples.PairShares(op.call); fault != "" {
+			t.Errorf("%s: %s", op.name, fault)
+		}
 	}
+	f := []int{0, 5, 6, 9, 77, 78}
 	for _, op := range ofOnes() {
 		for _, n := range []int{0, 2, 9} {
-			stays(t, op.name, [][]int{f}, func() ([]int, api.Errno) { return op.call(f[:4], n) })
+			if fault := samples.Shares([][]int{f}, func() ([]int, api.Errno) { return op.call(f[:4], n) }); fault != "" {
+				t.Errorf("%s by %d: %s", op.name, n, fault)
+			}
 		}
 	}
 }

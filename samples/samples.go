@@ -2,10 +2,12 @@
 package samples
 
 import (
+	"iter"
 	"math"
 	"slices"
 
 	"headway/api"
+	"headway/curve"
 )
 
 // Values returns n values, each made out of its time.
@@ -50,6 +52,21 @@ func longer(f []int) [][]int {
 	return out
 }
 
+// Steps returns all the curves of 6 values that start at 0 or 2 and rise by 0, 1 or 4 each time.
+func Steps() [][]int {
+	out := [][]int{{0}, {2}}
+	for range 5 {
+		var next [][]int
+		for _, f := range out {
+			for _, step := range []int{0, 1, 4} {
+				next = append(next, append(slices.Clone(f), f[len(f)-1]+step))
+			}
+		}
+		out = next
+	}
+	return out
+}
+
 // Long returns curves of 61 values, of several forms; no two of them add up to more than a curve may have.
 func Long() [][]int {
 	return [][]int{
@@ -60,6 +77,35 @@ func Long() [][]int {
 		Values(61, func(t int) int { return max(0, t-20) * 11 }),
 		Values(61, func(t int) int { return t*12 + t*t%11 }),
 	}
+}
+
+// Pairs goes through all pairs of one length among the small, the stepwise and the long curves.
+func Pairs() iter.Seq2[[]int, []int] {
+	return func(yield func(f, g []int) bool) {
+		for _, curves := range [][][]int{Small(), Steps(), Long()} {
+			for _, f := range curves {
+				for _, g := range curves {
+					if len(f) == len(g) && !yield(f, g) {
+						return
+					}
+				}
+			}
+		}
+	}
+}
+
+// Splits returns all the lists of times, none of them 0, that add up to t.
+func Splits(t int) [][]int {
+	if t == 0 {
+		return [][]int{nil}
+	}
+	var out [][]int
+	for first := 1; first <= t; first++ {
+		for _, rest := range Splits(t - first) {
+			out = append(out, append([]int{first}, rest...))
+		}
+	}
+	return out
 }
 
 // Strange returns lists of all kinds, curves or not.
@@ -75,6 +121,33 @@ func Strange() [][]int {
 // Numbers returns numbers of all kinds.
 func Numbers() []int {
 	return []int{math.MinInt, -1, 0, 1, 2, 3, 59, 60, 61, 62, api.MaxVal, api.MaxVal + 1, math.MaxInt}
+}
+
+// WrongCurve: a list that is not a curve, and the error that it deserves.
+type WrongCurve struct {
+	Name string
+	F    []int
+	Want api.Errno
+}
+
+// WrongCurves returns the errors that any function of a curve has, and their order.
+func WrongCurves() []WrongCurve {
+	top := api.MaxVal
+	return []WrongCurve{
+		{"nil", nil, api.ErrArg},
+		{"empty", []int{}, api.ErrArg},
+		{"empty with spare room", make([]int, 0, 70), api.ErrArg},
+		{"62 values", Slope(62, 0, 1), api.ErrLarge},
+		{"62 values ahead of their signs and order", Slope(62, 0, -1), api.ErrLarge},
+		{"negative", []int{-1}, api.ErrArg},
+		{"most negative", []int{0, math.MinInt}, api.ErrArg},
+		{"too great by one", []int{top + 1}, api.ErrLarge},
+		{"too great at the last time", []int{0, 1, math.MaxInt}, api.ErrLarge},
+		{"a fall", []int{0, 3, 2}, api.ErrForm},
+		{"negative, which is a fall too", []int{5, -1}, api.ErrArg},
+		{"a fall ahead of too great", []int{2, 1, top + 1}, api.ErrForm},
+		{"too great ahead of a fall", []int{0, top + 2, top + 1}, api.ErrLarge},
+	}
 }
 
 // WrongPair: two lists that are not two curves of one length, and the error that they deserve.
@@ -104,6 +177,30 @@ func WrongPairs() []WrongPair {
 		{"the second is shorter", []int{0, 1}, []int{0}, api.ErrLen},
 		{"lengths ahead of the size of the result", []int{api.MaxVal}, []int{api.MaxVal, api.MaxVal}, api.ErrLen},
 	}
+}
+
+// Sound reports whether got and e may be the answer of a function that takes f first and returns a curve: f's own error goes ahead of others, and there is a curve just when there is no error.
+func Sound(f, got []int, e api.Errno) bool {
+	if first := curve.Check(f); first != api.OK && e != first {
+		return false
+	}
+	if e != api.OK {
+		return len(got) == 0
+	}
+	return curve.Check(got) == api.OK
+}
+
+// PairShares tells what Shares finds in a function of two curves.
+func PairShares(call func(f, g []int) ([]int, api.Errno)) string {
+	f, g := []int{0, 5, 6, 9, 77, 78}, []int{1, 2, 7, 8, 87, 88, 89}
+	high, low := []int{9, 9, 9, 99, 77, 78}, []int{0, 0, 0, 0, 97, 98}
+	for _, rooms := range [][][]int{{f, g}, {g, f}, {f, f}, {high, low}, {low, high}, {low, low}} {
+		fault := Shares(rooms, func() ([]int, api.Errno) { return call(rooms[0][:4], rooms[1][:4]) })
+		if fault != "" {
+			return fault
+		}
+	}
+	return ""
 }
 
 // Shares calls twice, overwrites all of one result, and tells what has changed by it: an argument (rooms, each with its spare capacity), the other result, or nothing ("").
