@@ -4,6 +4,7 @@ package point
 import (
 	"headway/api"
 	"headway/curve"
+	"headway/values"
 )
 
 // Min returns the lesser of f and g at each time.
@@ -38,7 +39,7 @@ func Late(f []int, d int) ([]int, api.Errno) {
 	if d < 0 {
 		return nil, api.ErrArg
 	}
-	return build(len(f), func(t int) int {
+	return values.Curve(len(f), func(t int) int {
 		if t < d {
 			return 0
 		}
@@ -54,7 +55,7 @@ func Up(f []int, n int) ([]int, api.Errno) {
 	if n < 0 || n > api.MaxVal {
 		return nil, api.ErrArg
 	}
-	return build(len(f), func(t int) int { return f[t] + n })
+	return values.Curve(len(f), func(t int) int { return f[t] + n })
 }
 
 // pairwise calls op with the values of f and g at each time. The times go upward: an op may keep what it has seen.
@@ -63,18 +64,5 @@ func pairwise(f, g []int, op func(a, b int) int) ([]int, api.Errno) {
 	if _, e := curve.Le(f, g); e != api.OK {
 		return nil, e
 	}
-	return build(len(f), func(t int) int { return op(f[t], g[t]) })
-}
-
-// build makes a curve of n values out of its value at each time, from time 0 upward.
-func build(n int, at func(t int) int) ([]int, api.Errno) {
-	out := make([]int, n)
-	for t := range out {
-		v := at(t)
-		if v > api.MaxVal {
-			return nil, api.ErrLarge
-		}
-		out[t] = v
-	}
-	return out, api.OK
+	return values.Curve(len(f), func(t int) int { return op(f[t], g[t]) })
 }

@@ -120,7 +120,7 @@ func Strange() [][]int {
 
 // Numbers returns numbers of all kinds.
 func Numbers() []int {
-	return []int{math.MinInt, -1, 0, 1, 2, 3, 59, 60, 61, 62, api.MaxVal, api.MaxVal + 1, math.MaxInt}
+	return []int{math.MinInt, -1, 0, 1, 2, 3, 59, 60, 61, 62, api.MaxRate, api.MaxRate + 1, api.MaxVal, api.MaxVal + 1, math.MaxInt}
 }
 
 // WrongCurve: a list that is not a curve, and the error that it deserves.
