@@ -1,0 +1,5 @@
+// Package limits: whether a number is within its bounds. Packages shape and bucket ask it.
+package limits
+
+// Outside reports whether n is less than low or greater than high.
+func Outside(n, low, high int) bool { return n < low || n > high }
