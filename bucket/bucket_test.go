@@ -45,67 +45,6 @@ func buckets() []bucketCase {
 	}
 }
 
-// queueCase: a list of packets, and the error that it deserves.
-type queueCase struct {
-	name string
-	l    []api.Packet
-	want api.Errno
-}
-
-// same is p, n times.
-func same(n int, p api.Packet) []api.Packet { return slices.Repeat([]api.Packet{p}, n) }
-
-// with is a queue of 60 packets that come at 1, 2 and so on, the one at i replaced by p.
-func with(i int, p api.Packet) []api.Packet {
-	var l []api.Packet
-	for at := 1; at <= 60; at++ {
-		l = append(l, api.Packet{At: at, Size: 1})
-	}
-	l[i] = p
-	return l
-}
-
-func queues() []queueCase {
-	good := api.Packet{At: 3, Size: 2, Flow: 1}
-	return []queueCase{
-		{"nil", nil, api.OK},
-		{"empty", []api.Packet{}, api.OK},
-		{"empty with spare room", make([]api.Packet, 0, 70), api.OK},
-		{"ordinary", []api.Packet{good}, api.OK},
-		{"all at the least", []api.Packet{{At: 0, Size: 1, Flow: 0}}, api.OK},
-		{"all at the most", []api.Packet{{At: 200, Size: 1000, Flow: 7}}, api.OK},
-		{"at one time", []api.Packet{{At: 3, Size: 1}, {At: 3, Size: 1}}, api.OK},
-		{"one after the other", []api.Packet{{At: 3, Size: 1}, {At: 4, Size: 1}}, api.OK},
-		{"the first time and the last", []api.Packet{{Size: 1}, {At: 200, Size: 1}}, api.OK},
-		{"falling sizes and flows", []api.Packet{{Size: 9, Flow: 5}, {At: 1, Size: 4, Flow: 2}}, api.OK},
-		{"60 packets", same(60, good), api.OK},
-		{"61 packets", same(61, good), api.ErrLarge},
-		{"61 packets ahead of their bounds", same(61, api.Packet{At: -1}), api.ErrLarge},
-		{"61 packets ahead of their order", append([]api.Packet{{At: 9, Size: 1}}, same(60, good)...), api.ErrLarge},
-		{"a packet of zeros", []api.Packet{{}}, api.ErrArg},
-		{"a negative flow", []api.Packet{{At: 3, Size: 2, Flow: -1}}, api.ErrArg},
-		{"a flow too great by one", []api.Packet{{At: 3, Size: 2, Flow: 8}}, api.ErrArg},
-		{"no size", []api.Packet{{At: 3, Size: 0, Flow: 1}}, api.ErrArg},
-		{"a negative size", []api.Packet{{At: 3, Size: -1, Flow: 1}}, api.ErrArg},
-		{"a size too great by one", []api.Packet{{At: 3, Size: 1001, Flow: 1}}, api.ErrArg},
-		{"a negative time", []api.Packet{{At: -1, Size: 2, Flow: 1}}, api.ErrArg},
-		{"a time too great by one", []api.Packet{{At: 201, Size: 2, Flow: 1}}, api.ErrArg},
-		{"the least of all", []api.Packet{{At: math.MinInt, Size: math.MinInt, Flow: math.MinInt}}, api.ErrArg},
-		{"the greatest of all", []api.Packet{{At: math.MaxInt, Size: math.MaxInt, Flow: math.MaxInt}}, api.ErrArg},
-		{"ahead of the one before it by one", []api.Packet{{At: 3, Size: 1}, {At: 2, Size: 1}}, api.ErrForm},
-		{"ahead of the one before it, though not of the first", []api.Packet{{At: 1, Size: 1}, {At: 5, Size: 1}, {At: 4, Size: 1}}, api.ErrForm},
-		{"a packet's bounds ahead of its order", []api.Packet{{At: 3, Size: 1}, {At: 2, Size: 0}}, api.ErrArg},
-		{"a negative time, which is out of order too", []api.Packet{{At: 3, Size: 1}, {At: -1, Size: 1}}, api.ErrArg},
-		{"a packet's order ahead of the next one's bounds", []api.Packet{{At: 3, Size: 1}, {At: 2, Size: 1}, {At: 4}}, api.ErrForm},
-		{"a packet's bounds ahead of the next one's order", []api.Packet{{At: 3, Size: 1}, {At: 4}, {At: 2, Size: 1}}, api.ErrArg},
-		{"a wrong flow in the first of 60", with(0, api.Packet{At: 1, Size: 1, Flow: 8}), api.ErrArg},
-		{"a wrong size in the last of 60", with(59, api.Packet{At: 60, Size: 1001}), api.ErrArg},
-		{"a wrong time in the last of 60", with(59, api.Packet{At: 201, Size: 1}), api.ErrArg},
-		{"the last of 60 out of order", with(59, api.Packet{At: 58, Size: 1}), api.ErrForm},
-		{"the last of 60 at the time of the one before it", with(59, api.Packet{At: 59, Size: 1}), api.OK},
-	}
-}
-
 func TestCheck(t *testing.T) { // P28
 	for _, x := range buckets() {
 		if e := bucket.Check(x.b); e != x.want {
@@ -217,9 +156,9 @@ func TestTickAndTakeErrors(t *testing.T) { // P29
 }
 
 func TestPackets(t *testing.T) { // P30
-	for _, x := range queues() {
-		if e := bucket.Packets(x.l); e != x.want {
-			t.Errorf("%s: %d, not %d", x.name, e, x.want)
+	for _, x := range samples.QueueCases() {
+		if e := bucket.Packets(x.L); e != x.Want {
+			t.Errorf("%s: %d, not %d", x.Name, e, x.Want)
 		}
 	}
 }
@@ -247,8 +186,8 @@ func TestRun(t *testing.T) { // P31
 		{"nothing at all", api.Bucket{}, []api.Packet{{Size: 1}, {At: 200, Size: 1}}, []bool{false, false}},
 		{"the flows share the bucket", b, []api.Packet{{Size: 2, Flow: 1}, {Size: 1, Flow: 2}}, []bool{true, false}},
 		{"the last slot", api.Bucket{Rate: 5, Burst: 1000}, []api.Packet{{At: 199, Size: 996}, {At: 200, Size: 1000}}, []bool{false, true}},
-		{"60 at one time", api.Bucket{Rate: 1, Burst: 900, Fill: 59}, same(60, api.Packet{Size: 1}), append(slices.Repeat([]bool{true}, 59), false)},
-		{"60 of the greatest", api.Bucket{Rate: 10000, Burst: api.MaxVal}, same(60, api.Packet{At: 6, Size: 1000, Flow: 7}), slices.Repeat([]bool{true}, 60)},
+		{"60 at one time", api.Bucket{Rate: 1, Burst: 900, Fill: 59}, samples.SamePackets(60, api.Packet{Size: 1}), append(slices.Repeat([]bool{true}, 59), false)},
+		{"60 of the greatest", api.Bucket{Rate: 10000, Burst: api.MaxVal}, samples.SamePackets(60, api.Packet{At: 6, Size: 1000, Flow: 7}), slices.Repeat([]bool{true}, 60)},
 	} {
 		if got, e := bucket.Run(x.b, x.l); e != api.OK || !slices.Equal(got, x.want) {
 			t.Errorf("%s: %v %d, not %v", x.name, got, e, x.want)
@@ -292,32 +231,8 @@ func smallBuckets() []api.Bucket {
 	return out
 }
 
-// smallQueues returns all the queues of up to 4 packets of 1, 3 or 5 bytes that come 0, 1 or 3 times after one another.
-func smallQueues() [][]api.Packet {
-	out := [][]api.Packet{nil}
-	last := out
-	for range 4 {
-		var next [][]api.Packet
-		for _, l := range last {
-			at := 0
-			if len(l) > 0 {
-				at = l[len(l)-1].At
-			}
-			for _, later := range []int{0, 1, 3} {
-				for _, size := range []int{1, 3, 5} {
-					p := api.Packet{At: at + later, Size: size, Flow: len(l)}
-					next = append(next, append(slices.Clone(l), p))
-				}
-			}
-		}
-		out = append(out, next...)
-		last = next
-	}
-	return out
-}
-
 func TestRunAll(t *testing.T) { // P31
-	for _, l := range smallQueues() {
+	for _, l := range samples.SmallQueues() {
 		for _, b := range smallBuckets() {
 			want := run(b, l)
 			if got, e := bucket.Run(b, l); e != api.OK || !slices.Equal(got, want) {
@@ -327,28 +242,8 @@ func TestRunAll(t *testing.T) { // P31
 	}
 }
 
-// longQueues returns queues of 60 packets, of several forms.
-func longQueues() [][]api.Packet {
-	var out [][]api.Packet
-	for _, step := range []int{0, 1, 2, 3} {
-		for _, size := range []func(i int) int{
-			func(i int) int { return 1 + i%9 },
-			func(i int) int { return 1000 - i },
-			func(i int) int { return 1 + i*i*37%1000 },
-		} {
-			var l []api.Packet
-			for i := range 60 {
-				l = append(l, api.Packet{At: i*step + i%(step+1), Size: size(i), Flow: i % 8})
-			}
-			slices.SortStableFunc(l, func(p, q api.Packet) int { return p.At - q.At })
-			out = append(out, l)
-		}
-	}
-	return out
-}
-
 func TestRunLong(t *testing.T) { // P31
-	for _, l := range longQueues() {
+	for _, l := range samples.LongQueues() {
 		for _, rate := range []int{0, 1, 4, 300, 10000} {
 			for _, burst := range []int{0, 7, 999, 1000, 30000, api.MaxVal} {
 				for _, fill := range []int{0, burst / 2, burst} {
@@ -367,7 +262,7 @@ func TestRunLong(t *testing.T) { // P31
 func TestConformingFits(t *testing.T) { // P31
 	b := api.Bucket{Rate: 4, Burst: 30, Fill: 11}
 	conforming := 0
-	for _, l := range longQueues() {
+	for _, l := range samples.LongQueues() {
 		got, _ := bucket.Run(b, l)
 		for i, first := range l {
 			sum := 0
@@ -389,14 +284,14 @@ func TestConformingFits(t *testing.T) { // P31
 
 func TestRunErrors(t *testing.T) { // P31
 	for _, x := range buckets() {
-		for _, y := range queues() {
+		for _, y := range samples.QueueCases() {
 			want := x.want
 			if want == api.OK {
-				want = y.want
+				want = y.Want
 			}
-			got, e := bucket.Run(x.b, y.l)
-			if e != want || e == api.OK && len(got) != len(y.l) || e != api.OK && len(got) != 0 {
-				t.Errorf("%s, %s: %v %d, not %d", x.name, y.name, got, e, want)
+			got, e := bucket.Run(x.b, y.L)
+			if e != want || e == api.OK && len(got) != len(y.L) || e != api.OK && len(got) != 0 {
+				t.Errorf("%s, %s: %v %d, not %d", x.name, y.Name, got, e, want)
 			}
 		}
 	}

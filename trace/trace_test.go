@@ -1,7 +1,6 @@
 package trace_test
 
 import (
-	"math"
 	"slices"
 	"testing"
 
@@ -12,33 +11,6 @@ import (
 	"headway/samples"
 	"headway/trace"
 )
-
-// same is n, count times.
-func same(count, n int) []int { return samples.Slope(count, n, 0) }
-
-// with is a trace of 60 ones, the one of slot i+1 replaced by n.
-func with(i, n int) []int {
-	a := same(60, 1)
-	a[i] = n
-	return a
-}
-
-// traces returns all the traces of up to 5 slots with 0, 1 or 4 each, and some longer ones.
-func traces() [][]int {
-	out := [][]int{nil}
-	last := out
-	for range 5 {
-		var next [][]int
-		for _, a := range last {
-			for _, n := range []int{0, 1, 4} {
-				next = append(next, append(slices.Clone(a), n))
-			}
-		}
-		out = append(out, next...)
-		last = next
-	}
-	return append(out, same(60, 0), same(60, 10000), same(59, 9999), with(0, 10000), with(59, 0), samples.Slope(60, 7, 11))
-}
 
 // sum is the cumulative curve of a, each value added up anew.
 func sum(a []int) []int {
@@ -75,39 +47,13 @@ func env(f []int) []int {
 }
 
 func TestCheck(t *testing.T) { // P21
-	for _, x := range []struct {
-		name string
-		a    []int
-		want api.Errno
-	}{
-		{"nil", nil, api.OK},
-		{"empty", []int{}, api.OK},
-		{"empty with spare room", make([]int, 0, 70), api.OK},
-		{"the document's", []int{2, 0, 3}, api.OK},
-		{"nothing comes", []int{0}, api.OK},
-		{"the most in a slot", []int{10000}, api.OK},
-		{"one more than the most", []int{10001}, api.ErrArg},
-		{"a negative number", []int{-1}, api.ErrArg},
-		{"the least int", []int{0, math.MinInt}, api.ErrArg},
-		{"the greatest int", []int{math.MaxInt, 0}, api.ErrArg},
-		{"as much as a curve may have", []int{api.MaxVal}, api.ErrArg},
-		{"60 slots", same(60, 10000), api.OK},
-		{"60 empty slots", same(60, 0), api.OK},
-		{"61 slots", same(61, 0), api.ErrLarge},
-		{"61 slots ahead of a negative number", same(61, -1), api.ErrLarge},
-		{"61 slots ahead of a number that is too great", same(61, 10001), api.ErrLarge},
-		{"very many slots", make([]int, 5000), api.ErrLarge},
-		{"too great in the first of 60", with(0, 10001), api.ErrArg},
-		{"too great in the last of 60", with(59, 10001), api.ErrArg},
-		{"negative in the last of 60", with(59, -1), api.ErrArg},
-		{"too great within", []int{1, 10001, 1}, api.ErrArg},
-	} {
-		if e := trace.Check(x.a); e != x.want {
-			t.Errorf("%s: check: %d, not %d", x.name, e, x.want)
+	for _, x := range samples.TraceCases() {
+		if e := trace.Check(x.A); e != x.Want {
+			t.Errorf("%s: check: %d, not %d", x.Name, e, x.Want)
 		}
-		f, e := trace.Sum(x.a)
-		if e != x.want || (e == api.OK) != (len(f) > 0) {
-			t.Errorf("%s: sum: %v %d, not %d", x.name, f, e, x.want)
+		f, e := trace.Sum(x.A)
+		if e != x.Want || (e == api.OK) != (len(f) > 0) {
+			t.Errorf("%s: sum: %v %d, not %d", x.Name, f, e, x.Want)
 		}
 	}
 }
@@ -123,7 +69,7 @@ func TestSum(t *testing.T) { // P21
 		{"one slot", []int{7}, []int{0, 7}},
 		{"empty slots", []int{0, 0}, []int{0, 0, 0}},
 		{"falling amounts", []int{5, 3, 1}, []int{0, 5, 8, 9}},
-		{"the most in all slots", same(60, 10000), samples.Slope(61, 0, 10000)},
+		{"the most in all slots", samples.Same(60, 10000), samples.Slope(61, 0, 10000)},
 	} {
 		if got, e := trace.Sum(x.a); e != api.OK || !slices.Equal(got, x.want) {
 			t.Errorf("%s: %v %d, not %v", x.name, got, e, x.want)
@@ -132,7 +78,7 @@ func TestSum(t *testing.T) { // P21
 }
 
 func TestThereAndBack(t *testing.T) { // P21, P22
-	for _, a := range traces() {
+	for _, a := range samples.Traces() {
 		f, e := trace.Sum(a)
 		if e != api.OK || !slices.Equal(f, sum(a)) || curve.Check(f) != api.OK {
 			t.Fatalf("sum of %v: %v %d", a, f, e)
@@ -156,7 +102,7 @@ func TestSlots(t *testing.T) { // P22
 		{"the most in a slot", []int{0, 10000}, []int{10000}, api.OK},
 		{"one more than the most in a slot", []int{0, 10001}, nil, api.ErrLarge},
 		{"more than the most in two slots", []int{0, 6000, 12000}, []int{6000, 6000}, api.OK},
-		{"the most in all slots", samples.Slope(61, 0, 10000), same(60, 10000), api.OK},
+		{"the most in all slots", samples.Slope(61, 0, 10000), samples.Same(60, 10000), api.OK},
 		{"one more than the most in the last slot", []int{0, 1, 10002}, nil, api.ErrLarge},
 		{"one more than the most in a slot within", []int{0, 3, 10004, 10004}, nil, api.ErrLarge},
 		{"all at once", []int{0, top}, nil, api.ErrLarge},
