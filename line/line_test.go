@@ -232,22 +232,8 @@ func TestArgumentsStay(t *testing.T) { // P2
 // TestResultsAreApart: neither result reaches the other through its spare room, even where the numbers are the same.
 func TestResultsAreApart(t *testing.T) { // P2
 	for _, a := range [][]int{{5, 0, 1, 0}, {0, 0}, {4, 2}} {
-		gone, left, _ := line.Run(a, 2)
-		wantGone, wantLeft := run(a, 2)
-		full := left[:cap(left)]
-		for i := range full {
-			full[i] = -5
-		}
-		if !slices.Equal(gone, wantGone) {
-			t.Errorf("%v: the second result reaches the first: %v", a, gone)
-		}
-		gone, left, _ = line.Run(a, 2)
-		full = gone[:cap(gone)]
-		for i := range full {
-			full[i] = -5
-		}
-		if !slices.Equal(left, wantLeft) {
-			t.Errorf("%v: the first result reaches the second: %v", a, left)
+		if fault := samples.Apart(func() ([]int, []int, api.Errno) { return line.Run(a, 2) }); fault != "" {
+			t.Errorf("%v: %s", a, fault)
 		}
 	}
 }

@@ -212,10 +212,7 @@ func Shares(rooms [][]int, call func() ([]int, api.Errno)) string {
 	got, _ := call()
 	other, _ := call()
 	want := slices.Clone(other)
-	got = got[:cap(got)]
-	for i := range got {
-		got[i] = -5
-	}
+	spoil(got)
 	for i, r := range rooms {
 		if !slices.Equal(r, before[i]) {
 			return "an argument has changed"
@@ -228,4 +225,28 @@ func Shares(rooms [][]int, call func() ([]int, api.Errno)) string {
 		return "results share memory"
 	}
 	return ""
+}
+
+// Apart overwrites all of one result of a call, and tells whether the other one has changed by it; then the other way round ("" if neither has).
+func Apart(call func() ([]int, []int, api.Errno)) string {
+	one, two, _ := call()
+	wantOne, wantTwo := slices.Clone(one), slices.Clone(two)
+	spoil(two)
+	if !slices.Equal(one, wantOne) {
+		return "the second result reaches the first"
+	}
+	one, two, _ = call()
+	spoil(one)
+	if !slices.Equal(two, wantTwo) {
+		return "the first result reaches the second"
+	}
+	return ""
+}
+
+// spoil overwrites all of a, with its spare room.
+func spoil(a []int) {
+	a = a[:cap(a)]
+	for i := range a {
+		a[i] = -5
+	}
 }
