@@ -24,6 +24,23 @@ func Slope(n, start, step int) []int {
 	return Values(n, func(t int) int { return start + t*step })
 }
 
+// Lists returns all the lists of up to most items, each any of those given.
+func Lists[T any](items []T, most int) [][]T {
+	out := [][]T{nil}
+	last := out
+	for range most {
+		var next [][]T
+		for _, l := range last {
+			for _, item := range items {
+				next = append(next, append(slices.Clone(l), item))
+			}
+		}
+		out = append(out, next...)
+		last = next
+	}
+	return out
+}
+
 // Small returns all the curves of 1 to 4 values from 0 to 3.
 func Small() [][]int {
 	var out [][]int

@@ -2,7 +2,6 @@ package samples
 
 import (
 	"math"
-	"slices"
 
 	"headway/api"
 )
@@ -53,17 +52,5 @@ func TraceCases() []TraceCase {
 
 // Traces returns all the traces of up to 5 slots with 0, 1 or 4 each, and some longer ones.
 func Traces() [][]int {
-	out := [][]int{nil}
-	last := out
-	for range 5 {
-		var next [][]int
-		for _, a := range last {
-			for _, n := range []int{0, 1, 4} {
-				next = append(next, append(slices.Clone(a), n))
-			}
-		}
-		out = append(out, next...)
-		last = next
-	}
-	return append(out, Same(60, 0), Same(60, 10000), Same(59, 9999), traceWith(0, 10000), traceWith(59, 0), Slope(60, 7, 11))
+	return append(Lists([]int{0, 1, 4}, 5), Same(60, 0), Same(60, 10000), Same(59, 9999), traceWith(0, 10000), traceWith(59, 0), Slope(60, 7, 11))
 }

@@ -26,20 +26,8 @@ func sizesWith(i, size int) []int {
 
 // small returns all the flows of up to 3 packets of 1, 3 or 4 bytes, and of a quantum of 1, 2, 3 or 5.
 func small() []api.Flow {
-	lists := [][]int{nil}
-	last := lists
-	for range 3 {
-		var next [][]int
-		for _, sizes := range last {
-			for _, size := range []int{1, 3, 4} {
-				next = append(next, append(slices.Clone(sizes), size))
-			}
-		}
-		lists = append(lists, next...)
-		last = next
-	}
 	var out []api.Flow
-	for _, sizes := range lists {
+	for _, sizes := range samples.Lists([]int{1, 3, 4}, 3) {
 		for _, quantum := range []int{1, 2, 3, 5} {
 			out = append(out, flow(quantum, sizes...))
 		}
