@@ -1,4 +1,4 @@
-// Package limits: whether a number is within its bounds. Packages shape, bucket, line, turns, fair, edf, ranks, piece, window, retry, lease, catch, plan, share, resume and world ask it.
+// Package limits: whether a number is within its bounds. Packages shape, bucket, line, turns, fair, edf, ranks, piece, window, retry, lease, catch, plan, share, resume, world and desk ask it.
 package limits
 
 // Outside reports whether n is less than low or greater than high.
